@@ -297,7 +297,8 @@ func TestP15NoneCostsLessWithManySigns(t *testing.T) {
 
 // Of these a code without a bound would have far more than 15 bits.
 func TestP15NoneCostsLessAtTheGreatestBound(t *testing.T) {
-	for _, freq := range [][]int{fibs(17), fibs(30), append(fibs(30), 0, 1<<20, 1, 1<<20)} {
+	steep := append(slices.Repeat([]int{1}, api.MaxSigns-28), fibs(30)[2:]...) // as many signs as may be
+	for _, freq := range [][]int{fibs(17), fibs(30), append(fibs(30), 0, 1<<20, 1, 1<<20), steep} {
 		got, want := checkLens(t, freq, 15), leastCost(freq, 15)
 		if got != want {
 			t.Errorf("Lens(%v, 15): cost %d; want %d", freq, got, want)
