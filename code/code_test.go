@@ -369,6 +369,31 @@ func TestP17ReadWrong(t *testing.T) {
 	}
 }
 
+// A book, asked sign by sign, reads as Read does in one go.
+func TestBookIsReadSignBySign(t *testing.T) {
+	r := rand.New(rand.NewSource(172))
+	for range 200 {
+		l, s := someLens(r), someText(r, r.Intn(20))
+		b, e := BookOf(l)
+		if e != api.OK {
+			t.Fatal(l, e)
+		}
+		for at, texts, all := 0, codeTexts(l), bitText(s); e == api.OK; {
+			sign, end, want := slowNext(texts, all, at)
+			got, behind, f := b.Next(s, at)
+			if got != sign || behind != end || f != want {
+				t.Fatalf("%v, %q at %d: %d, %d, %v; want %d, %d, %v", l, s, at, got, behind, f, sign, end, want)
+			}
+			at, e = end, want
+		}
+	}
+	for name, x := range wrongLens() {
+		if b, e := BookOf(x.l); b != nil || e != x.want {
+			t.Errorf("%s: %v, %v; want %v", name, b, e, x.want)
+		}
+	}
+}
+
 func TestP2ListsStayAsTheyWere(t *testing.T) {
 	l, signs := []int{1, 2, 2, 77}, []int{1, 0, 2, 78}
 	for _, n := range []int{3, 0, 1, 4} {
