@@ -172,6 +172,30 @@ func TestP44WhatIsNoCellOfTheLog(t *testing.T) {
 	}
 }
 
+// Other packages ask whether one cell is a cell of the log, and what is in it.
+func TestP44ReadCell(t *testing.T) {
+	none := func(name string, d api.Disk, at int) {
+		t.Helper()
+		if n, x, ok := ReadCell(d, at); n != 0 || x.Cell != 0 || len(x.Blobs) != 0 || x.Last || ok {
+			t.Errorf("%s: cell %d: %d, %v, %v", name, at, n, x, ok)
+		}
+	}
+	d := api.Disk{Cells: []string{end(5), end(6), end(7), part(8)}}
+	for at := 2; at < 4; at++ {
+		n, x, ok := ReadCell(d, at)
+		if n != at+5 || !same([]api.Entry{x}, []api.Entry{entry(at, n, at == 2)}) || !ok {
+			t.Error(at, n, x, ok)
+		}
+	}
+	for _, at := range []int{math.MinInt, -1, 0, 1, 4, 128, math.MaxInt} {
+		none("no cell for the log", d, at)
+	}
+	for i, text := range noCells() {
+		none("text "+strconv.Itoa(i), log(text), 2)
+	}
+	none("a wrong disk", waits(d, 4, ""), 2)
+}
+
 // What is told of a cell is all that lies in it.
 func TestP44Blobs(t *testing.T) {
 	for _, blobs := range [][]api.Blob{
